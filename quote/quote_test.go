@@ -39,7 +39,7 @@ func TestSignOfCharacters(t *testing.T) {
 		{`\"`, 34}, {`\\`, 92}, {`\/`, 47}, {`\b`, 8}, {`\f`, 12}, {`\n`, 10}, {`\r`, 13}, {`\t`, 9},
 		{"a", 97}, {" ", 32}, {"/", 47}, {"\x7f", 127}, {"!", 33}, {"#", 35}, {"[", 91}, {"]", 93},
 		{"\u0080", 128}, {"\u00e9", 233}, {"\u20ac", 0x20AC}, {"\ufffd", 0xFFFD}, {"\U0001F600", 0x1F600}, {"\U0010FFFF", 0x10FFFF},
-		{`\u0000`, 0}, {`\u00e9`, 233}, {`\u00E9`, 233}, {`\uaBcD`, 0xABCD}, {`\uD7ff`, 0xD7FF}, {`\ue000`, 0xE000}, {`\uffff`, 0xFFFF}, {`\u0022`, 34},
+		{`\u0000`, 0}, {`\u00e9`, 233}, {`\u00E9`, 233}, {`\uaBcD`, 0xABCD}, {`\uABCD`, 0xABCD}, {`\uFfFf`, 0xFFFF}, {`\u9999`, 0x9999}, {`\uD7ff`, 0xD7FF}, {`\ue000`, 0xE000}, {`\uffff`, 0xFFFF}, {`\u0022`, 34},
 		{`\ud800\udc00`, 0x10000}, {`\ud83d\ude00`, 0x1F600}, {`\uDBFF\uDFFF`, 0x10FFFF}, {`\ud800\udfff`, 0x103FF}, {`\udbff\udc00`, 0x10FC00},
 	} {
 		for _, tail := range []string{"", "0", `"`, `\`, "\xff", `\u0041`} {
@@ -65,7 +65,7 @@ func TestSignErrors(t *testing.T) {
 		{`\u`, 0, api.ErrForm}, {`\u0`, 0, api.ErrForm}, {`\u004`, 0, api.ErrForm}, {`\U0041`, 0, api.ErrForm},
 		{`\u004g`, 0, api.ErrForm}, {`\u004G`, 0, api.ErrForm}, {`\u00:0`, 0, api.ErrForm}, {`\u00/0`, 0, api.ErrForm}, {`\u00@0`, 0, api.ErrForm}, {"\\u00`0", 0, api.ErrForm}, {`\u+041`, 0, api.ErrForm},
 		{`\ud800`, 0, api.ErrForm}, {`\udbff`, 0, api.ErrForm}, {`\udc00`, 0, api.ErrForm}, {`\udfff`, 0, api.ErrForm},
-		{`\ud83d\u0041`, 0, api.ErrForm}, {`\ud83d\ud83d`, 0, api.ErrForm}, {`\ude00\ud83d`, 0, api.ErrForm}, {`\ud83d\ue000`, 0, api.ErrForm}, {`\ud83d\udbff`, 0, api.ErrForm},
+		{`\ud83d\u0041`, 0, api.ErrForm}, {`\ud83d\ud83d`, 0, api.ErrForm}, {`\ude00\ud83d`, 0, api.ErrForm}, {`\udc00\udc00`, 0, api.ErrForm}, {`\udfff\udc00`, 0, api.ErrForm}, {`\ud83d\ue000`, 0, api.ErrForm}, {`\ud83d\udbff`, 0, api.ErrForm},
 		{`\ud83d\ude0`, 0, api.ErrForm}, {`\ud83d\n`, 0, api.ErrForm}, {`\ud83dxude00`, 0, api.ErrForm}, {`\ud83d\xde00`, 0, api.ErrForm}, {`\ud83d/ude00`, 0, api.ErrForm},
 		{"\x80", 0, api.ErrUtf}, {"\xff", 0, api.ErrUtf}, {"\xe2\x82", 0, api.ErrUtf}, {"a\xed\xa0\x80", 1, api.ErrUtf}, {"\xc1\x81", 0, api.ErrUtf}, {"\xe2\x82\"", 0, api.ErrUtf},
 	} {
