@@ -304,6 +304,51 @@ func TestSingleEdits(t *testing.T) {
 	}
 }
 
+// freshByLevel counts the new nodes of a tree on each level.
+func freshByLevel(t *testing.T, f api.File, at, depth, from int, counts []int) {
+	t.Helper()
+	n, err := tree.Load(f, at, depth)
+	if err != api.OK {
+		t.Fatalf("Load = %d", err)
+	}
+	if at >= from {
+		counts[depth]++
+	}
+	for _, k := range n.Kids {
+		freshByLevel(t, f, k.At, depth-1, from, counts)
+	}
+}
+
+// P17.3: each key is deleted from, and one is put next to each key of, trees whose nodes have become small.
+func TestSingleEditsOfSparseTrees(t *testing.T) {
+	random := rand.New(rand.NewSource(20))
+	for round := range 2 {
+		s := state{f: file.New()}.apply(t, some(0, 200))
+		var gone []api.Edit
+		for i, x := range s.items {
+			if random.Intn(3) < 2 && i%(20+round) > 3 {
+				gone = append(gone, api.Edit{Key: x.Key})
+			}
+		}
+		s = s.apply(t, gone).synced()
+		for _, x := range s.items {
+			for _, e := range []api.Edit{{Key: x.Key}, {Key: append(bytes.Clone(x.Key), 0), Put: true}} {
+				f, y, err := batch.Apply(s.f, s.t, []api.Edit{e})
+				if err != api.OK {
+					t.Fatal(err)
+				}
+				counts := make([]int, y.Depth+1)
+				freshByLevel(t, f, y.At, y.Depth, file.Len(s.f), counts)
+				for depth, n := range counts {
+					if n > 2 || depth > s.t.Depth && n > 1 {
+						t.Fatalf("a single edit puts %v nodes", counts)
+					}
+				}
+			}
+		}
+	}
+}
+
 // P17.3
 func TestSeveralLists(t *testing.T) {
 	random := rand.New(rand.NewSource(19))
