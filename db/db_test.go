@@ -584,6 +584,9 @@ func TestChain(t *testing.T) {
 	d, _ = do(t, d, define("v", "for x in doc{emit x,id;}emit doc,1;"))
 	revs := map[string]string{}
 	for step := range 40 {
+		before := d
+		before.Views = append([]api.View{}, d.Views...)
+		old := d
 		id := sample.Name(random.Below(6))
 		text, _ := print.Print(random.Value(3))
 		if revs[id] != "" && random.Below(3) == 0 {
@@ -606,6 +609,8 @@ func TestChain(t *testing.T) {
 				t.Fatalf("All = %v %d", all, err)
 			}
 		}
-		stored(t, d)
+		if stored(t, d); !sameState(old, before) {
+			t.Fatal("an operation has changed its argument")
+		}
 	}
 }

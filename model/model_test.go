@@ -77,10 +77,14 @@ func TestNextToTheDatabase(t *testing.T) {
 		m := api.Model{}
 		for range 150 {
 			op := random.Op(past)
+			before := api.Model{Docs: slices.Clone(m.Docs), Views: slices.Clone(m.Views), Seq: m.Seq}
 			e, want := db.Do(d, op)
 			n, got := model.Do(m, op)
 			if !sameReply(got, want) {
 				t.Fatalf("Do(%v) = %v, the database replies %v", op, got, want)
+			}
+			if !model.Same(m, before) {
+				t.Fatalf("Do(%v) changes its argument", op)
 			}
 			if model.Check(n) != api.OK || got.Err != api.OK && !model.Same(m, n) {
 				t.Fatalf("Do(%v) leads to a wrong model", op)

@@ -248,8 +248,13 @@ func TestRandomEvents(t *testing.T) {
 					ev.Keep = append(ev.Keep, random.Below(3) > 0)
 				}
 			}
+			before := w
+			before.May, before.Db.Views = slices.Clone(w.May), slices.Clone(w.Db.Views)
 			v, told := world.Do(w, ev)
 			check(t, w, v, ev, told)
+			if !sameWorld(w, before) {
+				t.Fatalf("Do(%v) changes its argument", ev)
+			}
 			if ev.Kind == api.EvOp {
 				past.Note(ev.Op, told.Reply)
 			}
