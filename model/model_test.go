@@ -12,6 +12,7 @@ import (
 	"davenport/feed"
 	"davenport/file"
 	"davenport/model"
+	"davenport/numeral"
 	"davenport/sample"
 	"davenport/value"
 	"davenport/view"
@@ -204,6 +205,61 @@ func TestCheck(t *testing.T) {
 	for i, m := range []api.Model{{}, base(), {Seq: api.MaxSeq}, {Seq: 1, Docs: []api.Known{{Id: "a", Rev: api.Rev{Gen: 1}, Seq: 1, Body: fits}}}} {
 		if err := model.Check(m); err != api.OK || !model.Same(m, m) {
 			t.Errorf("Check of model %d = %d", i, err)
+		}
+	}
+}
+
+// P30.2: each error, and that it is before those named after it.
+func TestErrors(t *testing.T) {
+	m := base()
+	for _, x := range []struct {
+		op    api.Op
+		err   api.Errno
+		place int
+	}{
+		{put("A", "x", "["), api.ErrId, 0}, {put("a", "x", "[1,]"), api.ErrForm, 3}, {put("a", "x", "1"), api.ErrRev, 0}, {put("a", "", "1"), api.ErrConflict, 0}, {put("b", "1-00000000", "1"), api.ErrConflict, 0},
+		{api.Op{Kind: api.OpDelete, Id: "A", Rev: "x"}, api.ErrId, 0}, {api.Op{Kind: api.OpDelete, Id: "x", Rev: "x"}, api.ErrRev, 0}, {api.Op{Kind: api.OpDelete, Id: "x", Rev: "1-00000000"}, api.ErrNone, 0}, {api.Op{Kind: api.OpDelete, Id: "b"}, api.ErrNone, 0}, {api.Op{Kind: api.OpDelete, Id: "a"}, api.ErrConflict, 0},
+		{api.Op{Kind: api.OpGet, Id: "A"}, api.ErrId, 0}, {api.Op{Kind: api.OpGet, Id: "b"}, api.ErrNone, 0}, {api.Op{Kind: api.OpGet, Id: "x"}, api.ErrNone, 0},
+		{api.Op{Kind: api.OpDefine, Id: "V", Text: "emit"}, api.ErrId, 0}, {api.Op{Kind: api.OpDefine, Id: "v", Text: "emit"}, api.ErrSyntax, 4}, {api.Op{Kind: api.OpDefine, Id: "v"}, api.ErrThere, 0},
+		{api.Op{Kind: api.OpDrop, Id: "V"}, api.ErrId, 0}, {api.Op{Kind: api.OpDrop, Id: "a"}, api.ErrNone, 0},
+		{api.Op{Kind: api.OpQuery, Id: "V", Ask: api.Ask{}}, api.ErrId, 0}, {api.Op{Kind: api.OpQuery, Id: "a", Ask: api.Ask{}}, api.ErrNone, 0}, {api.Op{Kind: api.OpQuery, Id: "v", Ask: api.Ask{}}, api.ErrAsk, 0},
+		{api.Op{Kind: api.OpChanges, Token: "x"}, api.ErrArg, 0}, {api.Op{Kind: api.OpChanges, Token: "x", Most: 1}, api.ErrToken, 0}, {api.Op{Kind: 0, Id: "a"}, api.ErrArg, 0}, {api.Op{Kind: 8, Id: "a"}, api.ErrArg, 0}, {api.Op{Kind: math.MinInt}, api.ErrArg, 0},
+	} {
+		if n, r := model.Do(m, x.op); !sameReply(r, api.Reply{Err: x.err, Place: x.place}) || !model.Same(m, n) {
+			t.Errorf("Do(%v) = %v, want %d at %d", x.op, r, x.err, x.place)
+		}
+	}
+	last, _ := feed.Token(10)
+	if _, r := model.Do(m, api.Op{Kind: api.OpChanges, Token: last, Most: 1}); r.Err != api.ErrToken {
+		t.Errorf("changes after the last Seq = %v", r)
+	}
+}
+
+// P30.2: rows and groups, in both directions, all of them and the first ones.
+func TestQueries(t *testing.T) {
+	m := api.Model{}
+	for i, text := range []string{`{"k":[1,1],"n":9223372036854775807}`, `{"k":[1,2],"n":1}`, `{"k":[2,1],"n":5}`, `{"k":"x","n":null}`} {
+		m, _ = do(t, m, put(sample.Name(i), "", text))
+	}
+	m, _ = do(t, m, api.Op{Kind: api.OpDefine, Id: "v", Text: "emit doc.k,doc.n;"})
+	for _, x := range []struct {
+		a    api.Ask
+		want string
+		err  api.Errno
+	}{
+		{rowsAsk, "d3 d0 d1 d2", api.OK}, {api.Ask{Level: -1, Most: 0}, "", api.OK}, {api.Ask{Level: -1, Most: 2}, "d3 d0", api.OK}, {api.Ask{Level: -1, Most: 9}, "d3 d0 d1 d2", api.OK}, {api.Ask{Level: -1, Most: 3, Turned: true}, "d2 d1 d0", api.OK}, {api.Ask{Level: -1, Most: -1, HasFrom: true, From: api.Value{Kind: api.VText, S: "x"}, After: true}, "d0 d1 d2", api.OK},
+		{api.Ask{Level: 1, Kind: api.RdCount, Most: -1}, "1 2 1", api.OK}, {api.Ask{Level: 0, Kind: api.RdCount, Most: -1}, "4", api.OK}, {api.Ask{Level: 2, Kind: api.RdCount, Most: 2}, "1 1", api.OK}, {api.Ask{Level: 1, Kind: api.RdSum, Most: 1}, "0", api.OK}, {api.Ask{Level: 1, Kind: api.RdSum, Most: 0}, "", api.OK}, {api.Ask{Level: 1, Kind: api.RdSum, Most: 1, Turned: true}, "5", api.OK}, {api.Ask{Level: 1, Kind: api.RdSum, Most: 2}, "", api.ErrOver}, {api.Ask{Level: 1, Kind: api.RdSum, Most: 2, Turned: true}, "", api.ErrOver}, {api.Ask{Level: 0, Kind: api.RdStats, Most: -1}, "", api.ErrOver}, {api.Ask{Level: 1, Kind: api.RdMost, Most: -1, HasTo: true, To: value.Null()}, "", api.OK},
+	} {
+		n, r := model.Do(m, api.Op{Kind: api.OpQuery, Id: "v", Ask: x.a})
+		var got []string
+		for _, y := range r.Rows {
+			got = append(got, y.Id)
+		}
+		for _, y := range r.Groups {
+			got = append(got, numeral.Print(y.Value.N))
+		}
+		if strings.Join(got, " ") != x.want || r.Err != x.err || !model.Same(m, n) || (r.Seq == 4) != (x.err == api.OK) {
+			t.Errorf("query %v = %v, want %s %d", x.a, r, x.want, x.err)
 		}
 	}
 }

@@ -133,7 +133,7 @@ func TestExamples(t *testing.T) {
 
 // wrongAsks are queries that are not valid.
 func wrongAsks() []api.Ask {
-	out := []api.Ask{{Level: -2}, {Level: 256, Kind: api.RdSum}, {Level: math.MinInt}, {Level: math.MaxInt, Kind: api.RdSum}, {Level: 0}, {Level: 0, Kind: 9}, {Level: 5, Kind: -1}, {Level: 1, Kind: 6}, {Level: -1, HasFrom: true}, {Level: -1, HasTo: true}, {Level: 0, Kind: api.RdSum, HasFrom: true, From: sample.Nest(9)}}
+	out := []api.Ask{{Level: -2}, {Level: -2, Kind: api.RdSum}, {Level: 256, Kind: api.RdSum}, {Level: math.MinInt}, {Level: math.MaxInt, Kind: api.RdSum}, {Level: 0}, {Level: 0, Kind: 9}, {Level: 5, Kind: -1}, {Level: 1, Kind: 6}, {Level: -1, HasFrom: true}, {Level: -1, HasTo: true}, {Level: 0, Kind: api.RdSum, HasFrom: true, From: sample.Nest(9)}}
 	for _, v := range sample.Wrong() {
 		out = append(out, api.Ask{Level: -1, HasFrom: true, From: v}, api.Ask{Level: -1, HasTo: true, To: v, HasFrom: true, From: value.Null()})
 	}
@@ -188,8 +188,9 @@ func TestErrors(t *testing.T) {
 	item, _ := rows.Item(keyed(t, "5")[0])
 	g, noRows := plant(t, []api.Item{item, {Key: []byte("x")}})
 	h, notItem := plant(t, []api.Item{{Key: item.Key, Value: []byte("1")}})
-	moved := x
+	moved, red := x, x
 	moved.At++
+	red.Red.Count++
 	for i, a := range append(wrongAsks(), all) {
 		want := api.ErrAsk
 		if i == len(wrongAsks()) {
@@ -199,7 +200,7 @@ func TestErrors(t *testing.T) {
 			f   api.File
 			t   api.Tree
 			err api.Errno
-		}{{wrongFile, moved, api.ErrFile}, {f, moved, api.ErrTree}, {g, noRows, api.ErrTree}, {h, notItem, api.ErrTree}, {f, x, want}, {f, api.Tree{}, want}} {
+		}{{wrongFile, moved, api.ErrFile}, {f, moved, api.ErrTree}, {f, red, api.ErrTree}, {g, noRows, api.ErrTree}, {h, notItem, api.ErrTree}, {f, x, want}, {f, api.Tree{}, want}} {
 			if l, err := query.Rows(y.f, y.t, a); err != y.err || err != api.OK && len(l) != 0 {
 				t.Errorf("Rows of query %d = %v %d, want %d", i, l, err, y.err)
 			}

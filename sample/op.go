@@ -45,7 +45,7 @@ func (s *Source) rev(p *Past, id string) string {
 
 // Ask returns a query, which at times is not valid.
 func (s *Source) Ask() api.Ask {
-	a := api.Ask{HasFrom: s.Below(3) == 0, HasTo: s.Below(3) == 0, After: s.Below(2) == 0, Ahead: s.Below(2) == 0, Turned: s.Below(2) == 0, Most: s.Below(8) - 1, Level: s.Below(5) - 1, Kind: s.Below(6)}
+	a := api.Ask{HasFrom: s.Below(3) == 0, HasTo: s.Below(3) == 0, After: s.Below(2) == 0, Ahead: s.Below(2) == 0, Turned: s.Below(2) == 0, Most: s.Below(6) - 1, Level: s.Below(4) - 1, Kind: s.Below(6)}
 	if a.HasFrom {
 		a.From = s.Value(1)
 	}
@@ -58,12 +58,17 @@ func (s *Source) Ask() api.Ask {
 // Op returns an operation that may follow a past; some have an error.
 func (s *Source) Op(p *Past) api.Op {
 	texts := [...]string{`{"k":[1,2],"n":7}`, `{"k":[1,3],"n":-2}`, `{"k":[2],"n":9223372036854775807}`, `{"k":"x","n":null}`, "[1,2,3]", " 5 ", "[1,", `{"a":1,"a":2}`, "null"}
-	sources := [...]string{"emit doc.k,doc.n;", "emit doc,id;", "for x in doc{emit x,1;emit[x,x],id;}", "emit id,size doc;", "emit x,1;", "emit doc", ""}
-	op := api.Op{Kind: api.OpPut + s.Below(7), Id: Name(s.Below(6))}
-	if s.Below(3) == 0 {
-		op.Kind = api.OpPut
+	sources := [...]string{"emit doc.k,doc.n;", "emit doc.k,doc.n;", "emit doc,id;", "for x in doc{emit x,1;emit[x,x],id;}", "emit id,size doc;", "emit x,1;", "emit doc", ""}
+	// Documents are put and views are queried more often than anything else happens to them.
+	kinds := [...]int{api.OpPut, api.OpPut, api.OpPut, api.OpDelete, api.OpGet, api.OpDefine, api.OpDefine, api.OpQuery, api.OpQuery, api.OpQuery, api.OpQuery, api.OpChanges}
+	op := api.Op{Kind: kinds[s.Below(len(kinds))], Id: Name(s.Below(6))}
+	if op.Kind == api.OpDefine && s.Below(4) == 0 {
+		op.Kind = api.OpDrop
 	}
-	if s.Below(40) == 0 {
+	if op.Kind == api.OpQuery && s.Below(4) > 0 {
+		op.Id = Name(s.Below(3))
+	}
+	if s.Below(30) == 0 {
 		op.Id = "No"
 	}
 	switch op.Kind {
